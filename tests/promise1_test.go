@@ -76,7 +76,7 @@ func (w *arguments) calls() []call {
 			return fmt.Sprint(impl.EditsOK(edits)), nothing
 		}})
 	}
-	return list
+	return append(list, w.mergeCalls()...)
 }
 
 func codeCalls() []call {
