@@ -32,6 +32,11 @@ type arguments struct {
 	mapNames, editNames []string
 	maps, mapsBefore    [][]impl.Entry
 	edits, editsBefore  [][]impl.Edit
+	storeNames          []string
+	stores              [][]impl.Commit
+	storesBefore        []string
+	commits             []commitCase
+	commitsBefore       []string
 }
 
 func newArguments() *arguments {
@@ -48,6 +53,7 @@ func newArguments() *arguments {
 		w.edits = append(w.edits, list)
 		w.editsBefore = append(w.editsBefore, slices.Clone(whole(list)))
 	}
+	w.addStores()
 	return w
 }
 
@@ -63,7 +69,7 @@ func (w *arguments) changed() string {
 			return "edits " + w.editNames[i]
 		}
 	}
-	return ""
+	return w.changedStore()
 }
 
 func (w *arguments) calls() []call {
@@ -76,7 +82,7 @@ func (w *arguments) calls() []call {
 			return fmt.Sprint(impl.EditsOK(edits)), nothing
 		}})
 	}
-	return append(list, w.mergeCalls()...)
+	return append(append(list, w.mergeCalls()...), w.storeCalls()...)
 }
 
 func codeCalls() []call {
