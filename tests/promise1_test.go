@@ -37,6 +37,8 @@ type arguments struct {
 	storesBefore        []string
 	commits             []commitCase
 	commitsBefore       []string
+	refNames            []string
+	refs, refsBefore    [][]impl.Ref
 }
 
 func newArguments() *arguments {
@@ -54,6 +56,7 @@ func newArguments() *arguments {
 		w.editsBefore = append(w.editsBefore, slices.Clone(whole(list)))
 	}
 	w.addStores()
+	w.addRefs()
 	return w
 }
 
@@ -69,7 +72,10 @@ func (w *arguments) changed() string {
 			return "edits " + w.editNames[i]
 		}
 	}
-	return w.changedStore()
+	if name := w.changedStore(); name != "" {
+		return name
+	}
+	return w.changedRefs()
 }
 
 func (w *arguments) calls() []call {
@@ -82,7 +88,7 @@ func (w *arguments) calls() []call {
 			return fmt.Sprint(impl.EditsOK(edits)), nothing
 		}})
 	}
-	return append(append(list, w.mergeCalls()...), w.storeCalls()...)
+	return slices.Concat(list, w.mergeCalls(), w.storeCalls(), w.refCalls())
 }
 
 func codeCalls() []call {
