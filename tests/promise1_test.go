@@ -39,6 +39,11 @@ type arguments struct {
 	commitsBefore       []string
 	refNames            []string
 	refs, refsBefore    [][]impl.Ref
+	baseNames           []string
+	bases               []impl.Base
+	basesBefore         []string
+	ops                 [][]impl.Op
+	opsBefore           []string
 }
 
 func newArguments() *arguments {
@@ -57,6 +62,7 @@ func newArguments() *arguments {
 	}
 	w.addStores()
 	w.addRefs()
+	w.addBases()
 	return w
 }
 
@@ -75,7 +81,10 @@ func (w *arguments) changed() string {
 	if name := w.changedStore(); name != "" {
 		return name
 	}
-	return w.changedRefs()
+	if name := w.changedRefs(); name != "" {
+		return name
+	}
+	return w.changedBase()
 }
 
 func (w *arguments) calls() []call {
@@ -88,7 +97,7 @@ func (w *arguments) calls() []call {
 			return fmt.Sprint(impl.EditsOK(edits)), nothing
 		}})
 	}
-	return slices.Concat(list, w.mergeCalls(), w.storeCalls(), w.refCalls())
+	return slices.Concat(list, w.mergeCalls(), w.storeCalls(), w.refCalls(), w.baseCalls())
 }
 
 func codeCalls() []call {
