@@ -44,6 +44,12 @@ type arguments struct {
 	basesBefore         []string
 	ops                 [][]impl.Op
 	opsBefore           []string
+	eventNames          []string
+	events              [][]impl.Event
+	eventsBefore        [][]impl.Event
+	watchNames          []string
+	watches             []impl.Watch
+	watchesBefore       []string
 }
 
 func newArguments() *arguments {
@@ -63,6 +69,7 @@ func newArguments() *arguments {
 	w.addStores()
 	w.addRefs()
 	w.addBases()
+	w.addWatches()
 	return w
 }
 
@@ -84,7 +91,10 @@ func (w *arguments) changed() string {
 	if name := w.changedRefs(); name != "" {
 		return name
 	}
-	return w.changedBase()
+	if name := w.changedBase(); name != "" {
+		return name
+	}
+	return w.changedWatch()
 }
 
 func (w *arguments) calls() []call {
@@ -97,7 +107,7 @@ func (w *arguments) calls() []call {
 			return fmt.Sprint(impl.EditsOK(edits)), nothing
 		}})
 	}
-	return slices.Concat(list, w.mergeCalls(), w.storeCalls(), w.refCalls(), w.baseCalls())
+	return slices.Concat(list, w.mergeCalls(), w.storeCalls(), w.refCalls(), w.baseCalls(), w.watchCalls())
 }
 
 func codeCalls() []call {
