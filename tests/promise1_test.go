@@ -50,6 +50,12 @@ type arguments struct {
 	watchNames          []string
 	watches             []impl.Watch
 	watchesBefore       []string
+	clients             []impl.Client
+	clientsBefore       []string
+	wishes              [][]impl.Wish
+	wishesBefore        []string
+	moments             []impl.Moment
+	momentsBefore       []string
 }
 
 func newArguments() *arguments {
@@ -70,6 +76,7 @@ func newArguments() *arguments {
 	w.addRefs()
 	w.addBases()
 	w.addWatches()
+	w.addClients()
 	return w
 }
 
@@ -94,7 +101,10 @@ func (w *arguments) changed() string {
 	if name := w.changedBase(); name != "" {
 		return name
 	}
-	return w.changedWatch()
+	if name := w.changedWatch(); name != "" {
+		return name
+	}
+	return w.changedClient()
 }
 
 func (w *arguments) calls() []call {
@@ -107,7 +117,7 @@ func (w *arguments) calls() []call {
 			return fmt.Sprint(impl.EditsOK(edits)), nothing
 		}})
 	}
-	return slices.Concat(list, w.mergeCalls(), w.storeCalls(), w.refCalls(), w.baseCalls(), w.watchCalls())
+	return slices.Concat(list, w.mergeCalls(), w.storeCalls(), w.refCalls(), w.baseCalls(), w.watchCalls(), w.clientCalls())
 }
 
 func codeCalls() []call {
