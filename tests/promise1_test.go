@@ -56,6 +56,13 @@ type arguments struct {
 	wishesBefore        []string
 	moments             []impl.Moment
 	momentsBefore       []string
+	worldNames          []string
+	worlds              []impl.World
+	worldsBefore        []string
+	wanted              [][][]impl.Wish
+	watched             [][]string
+	picks               [][]int
+	runsBefore          string
 }
 
 func newArguments() *arguments {
@@ -77,6 +84,7 @@ func newArguments() *arguments {
 	w.addBases()
 	w.addWatches()
 	w.addClients()
+	w.addWorlds()
 	return w
 }
 
@@ -104,7 +112,10 @@ func (w *arguments) changed() string {
 	if name := w.changedWatch(); name != "" {
 		return name
 	}
-	return w.changedClient()
+	if name := w.changedClient(); name != "" {
+		return name
+	}
+	return w.changedWorld()
 }
 
 func (w *arguments) calls() []call {
@@ -117,7 +128,7 @@ func (w *arguments) calls() []call {
 			return fmt.Sprint(impl.EditsOK(edits)), nothing
 		}})
 	}
-	return slices.Concat(list, w.mergeCalls(), w.storeCalls(), w.refCalls(), w.baseCalls(), w.watchCalls(), w.clientCalls())
+	return slices.Concat(list, w.mergeCalls(), w.storeCalls(), w.refCalls(), w.baseCalls(), w.watchCalls(), w.clientCalls(), w.worldCalls())
 }
 
 func codeCalls() []call {
