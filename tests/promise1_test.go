@@ -63,6 +63,8 @@ type arguments struct {
 	watched             [][]string
 	picks               [][]int
 	runsBefore          string
+	pasts               [][]impl.Moment
+	pastsBefore         []string
 }
 
 func newArguments() *arguments {
@@ -85,6 +87,7 @@ func newArguments() *arguments {
 	w.addWatches()
 	w.addClients()
 	w.addWorlds()
+	w.addPasts()
 	return w
 }
 
@@ -115,7 +118,10 @@ func (w *arguments) changed() string {
 	if name := w.changedClient(); name != "" {
 		return name
 	}
-	return w.changedWorld()
+	if name := w.changedWorld(); name != "" {
+		return name
+	}
+	return w.changedPast()
 }
 
 func (w *arguments) calls() []call {
@@ -128,7 +134,7 @@ func (w *arguments) calls() []call {
 			return fmt.Sprint(impl.EditsOK(edits)), nothing
 		}})
 	}
-	return slices.Concat(list, w.mergeCalls(), w.storeCalls(), w.refCalls(), w.baseCalls(), w.watchCalls(), w.clientCalls(), w.worldCalls())
+	return slices.Concat(list, w.mergeCalls(), w.storeCalls(), w.refCalls(), w.baseCalls(), w.watchCalls(), w.clientCalls(), w.worldCalls(), w.orderCalls())
 }
 
 func codeCalls() []call {

@@ -265,24 +265,30 @@ func TestPromise1WorldsAreNew(t *testing.T) {
 	}
 }
 
+// withoutElements returns a world twice: with nil and with empty lists.
+func withoutElements(w impl.World) (nilled, emptied impl.World) {
+	nilled, emptied = cloned(w), cloned(w)
+	emptied.Clients, emptied.Watches, emptied.Moments = orEmpty(emptied.Clients), orEmpty(emptied.Watches), orEmpty(emptied.Moments)
+	for i := range emptied.Clients {
+		emptied.Clients[i].Wishes, emptied.Clients[i].Map = orEmpty(emptied.Clients[i].Wishes), orEmpty(emptied.Clients[i].Map)
+		nilled.Clients[i].Wishes, nilled.Clients[i].Map = orNil(nilled.Clients[i].Wishes), orNil(nilled.Clients[i].Map)
+	}
+	for i := range emptied.Watches {
+		emptied.Watches[i].Queue, nilled.Watches[i].Queue = orEmpty(emptied.Watches[i].Queue), orNil(nilled.Watches[i].Queue)
+	}
+	for i := range emptied.Moments {
+		e, n := &emptied.Moments[i], &nilled.Moments[i]
+		e.Op.Edits, n.Op.Edits = orEmpty(e.Op.Edits), orNil(n.Op.Edits)
+		e.Result.Keys, n.Result.Keys = orEmpty(e.Result.Keys), orNil(n.Result.Keys)
+		e.Result.Map, n.Result.Map = orEmpty(e.Result.Map), orNil(n.Result.Map)
+	}
+	nilled.Clients, nilled.Watches, nilled.Moments = orNil(nilled.Clients), orNil(nilled.Watches), orNil(nilled.Moments)
+	return nilled, emptied
+}
+
 func TestPromise1NilIsEmptyInWorlds(t *testing.T) {
 	for _, c := range validWorlds() {
-		nilled, emptied := cloned(c.w), cloned(c.w)
-		emptied.Clients, emptied.Watches, emptied.Moments = orEmpty(emptied.Clients), orEmpty(emptied.Watches), orEmpty(emptied.Moments)
-		for i := range emptied.Clients {
-			emptied.Clients[i].Wishes, emptied.Clients[i].Map = orEmpty(emptied.Clients[i].Wishes), orEmpty(emptied.Clients[i].Map)
-			nilled.Clients[i].Wishes, nilled.Clients[i].Map = orNil(nilled.Clients[i].Wishes), orNil(nilled.Clients[i].Map)
-		}
-		for i := range emptied.Watches {
-			emptied.Watches[i].Queue, nilled.Watches[i].Queue = orEmpty(emptied.Watches[i].Queue), orNil(nilled.Watches[i].Queue)
-		}
-		for i := range emptied.Moments {
-			e, n := &emptied.Moments[i], &nilled.Moments[i]
-			e.Op.Edits, n.Op.Edits = orEmpty(e.Op.Edits), orNil(n.Op.Edits)
-			e.Result.Keys, n.Result.Keys = orEmpty(e.Result.Keys), orNil(n.Result.Keys)
-			e.Result.Map, n.Result.Map = orEmpty(e.Result.Map), orNil(n.Result.Map)
-		}
-		nilled.Clients, nilled.Watches, nilled.Moments = orNil(nilled.Clients), orNil(nilled.Watches), orNil(nilled.Moments)
+		nilled, emptied := withoutElements(c.w)
 		if !impl.WorldOK(emptied) || !impl.WorldOK(nilled) || !impl.SameWorld(nilled, emptied) || !impl.SameWorld(emptied, nilled) {
 			t.Error("nil differs from empty", c.name)
 		}
