@@ -134,7 +134,7 @@ func (w *arguments) calls() []call {
 			return fmt.Sprint(impl.EditsOK(edits)), nothing
 		}})
 	}
-	return slices.Concat(list, w.mergeCalls(), w.storeCalls(), w.refCalls(), w.baseCalls(), w.watchCalls(), w.clientCalls(), w.worldCalls(), w.orderCalls(), w.snapCalls(), w.bytesCalls(), w.monitorCalls())
+	return slices.Concat(list, w.mergeCalls(), w.storeCalls(), w.refCalls(), w.baseCalls(), w.watchCalls(), w.clientCalls(), w.worldCalls(), w.orderCalls(), w.snapCalls(), w.bytesCalls(), w.monitorCalls(), w.textCalls())
 }
 
 func codeCalls() []call {
