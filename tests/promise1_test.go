@@ -65,6 +65,7 @@ type arguments struct {
 	runsBefore          string
 	pasts               [][]impl.Moment
 	pastsBefore         []string
+	lines, linesBefore  [][]string
 }
 
 func newArguments() *arguments {
@@ -88,6 +89,7 @@ func newArguments() *arguments {
 	w.addClients()
 	w.addWorlds()
 	w.addPasts()
+	w.addLines()
 	return w
 }
 
@@ -121,7 +123,10 @@ func (w *arguments) changed() string {
 	if name := w.changedWorld(); name != "" {
 		return name
 	}
-	return w.changedPast()
+	if name := w.changedPast(); name != "" {
+		return name
+	}
+	return w.changedLines()
 }
 
 func (w *arguments) calls() []call {
@@ -134,7 +139,7 @@ func (w *arguments) calls() []call {
 			return fmt.Sprint(impl.EditsOK(edits)), nothing
 		}})
 	}
-	return slices.Concat(list, w.mergeCalls(), w.storeCalls(), w.refCalls(), w.baseCalls(), w.watchCalls(), w.clientCalls(), w.worldCalls(), w.orderCalls(), w.snapCalls(), w.bytesCalls(), w.monitorCalls(), w.textCalls())
+	return slices.Concat(list, w.mergeCalls(), w.storeCalls(), w.refCalls(), w.baseCalls(), w.watchCalls(), w.clientCalls(), w.worldCalls(), w.orderCalls(), w.snapCalls(), w.bytesCalls(), w.monitorCalls(), w.textCalls(), w.consoleCalls())
 }
 
 func codeCalls() []call {
